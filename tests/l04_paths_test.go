@@ -129,6 +129,18 @@ func entriesByDefinition(n impl.Network, from int64) []int64 {
 	return entries
 }
 
+// forestByDefinition returns the entries of all nodes in the searches from their least nodes.
+func forestByDefinition(n impl.Network) []int64 {
+	forest := []int64{}
+	for node, least := range componentsByDefinition(n) {
+		if int64(node) != least {
+			forest = append(forest, entriesByDefinition(n, least)[node])
+		}
+	}
+	slices.Sort(forest)
+	return forest
+}
+
 // nodesAlong returns the nodes that a path from a node passes, or false if a pipe does not go on.
 func nodesAlong(n impl.Network, from int64, path []int64) ([]int64, bool) {
 	nodes := []int64{from}
@@ -349,15 +361,8 @@ func TestForestsAndBridgesByDefinition(t *testing.T) {
 		got, code := impl.ComponentsOf(n)
 		wantList(t, "ComponentsOf", got, code, components, impl.ErrNone)
 
-		var forest []int64
-		for node, least := range components {
-			if int64(node) != least {
-				forest = append(forest, entriesByDefinition(n, least)[node])
-			}
-		}
-		slices.Sort(forest)
 		got, code = impl.SpanningForest(n)
-		wantList(t, "SpanningForest", got, code, forest, impl.ErrNone)
+		wantList(t, "SpanningForest", got, code, forestByDefinition(n), impl.ErrNone)
 
 		var bridges []int64
 		for i := range n.Pipes {
