@@ -168,6 +168,15 @@ func inRange(x, low, high int64) bool {
 	return low <= x && x <= high
 }
 
+func areInRange(low, high int64, values ...int64) bool {
+	for _, x := range values {
+		if !inRange(x, low, high) {
+			return false
+		}
+	}
+	return true
+}
+
 func isFactor(x int64) bool {
 	return inRange(x, -MaxFactor, MaxFactor)
 }
@@ -193,13 +202,8 @@ func checkShares(total int64, weights []int64) int64 {
 	if len(weights) == 0 || len(weights) > MaxWeights {
 		return ErrLimit
 	}
-	if !inRange(total, 0, MaxFactor) {
+	if !inRange(total, 0, MaxFactor) || !areInRange(0, MaxFactor, weights...) {
 		return ErrRange
-	}
-	for _, w := range weights {
-		if !inRange(w, 0, MaxFactor) {
-			return ErrRange
-		}
 	}
 	if sum(weights) == 0 {
 		return ErrState

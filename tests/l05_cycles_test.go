@@ -636,41 +636,50 @@ func copyOfLists(lists [][]int64) [][]int64 {
 	return clone
 }
 
-// TestCyclesLeaveArgumentsAlone looks at the arguments after each call, and after each result has
-// been overwritten with its spare capacity.
+// wantLeftAlone looks at the arguments after each call, and after each result has been overwritten
+// with its spare capacity. The network and the lists are the whole memory of the arguments.
+func wantLeftAlone(t *testing.T, memory impl.Network, lists [][]int64, results map[string]func() ([][]int64, int64)) {
+	t.Helper()
+	before, listsBefore := copyOf(memory), copyOfLists(lists)
+	for name, result := range results {
+		got, code := result()
+		if code != impl.ErrNone || len(got) == 0 {
+			t.Fatalf("%s returned %v and the code %d", name, got, code)
+		}
+		for _, list := range got {
+			list = list[:cap(list)]
+			for i := range list {
+				list[i] = -7
+			}
+		}
+		if !sameNetwork(memory, before) || !slices.EqualFunc(lists, listsBefore, slices.Equal[[]int64]) {
+			t.Fatalf("%s has changed its arguments, or what lies behind them, to %v and %v", name, memory, lists)
+		}
+	}
+}
+
 func TestCyclesLeaveArgumentsAlone(t *testing.T) {
 	for _, base := range []impl.Network{networkOf(2, pipe(0, 1), pipe(1, 0)), mixedNetwork(), twoRings(), largestNetwork()} {
 		n, memory := withMemory(base)
 		chords := chordsByDefinition(n)
 		flows, amounts := repeated(len(n.Pipes)+2, 6), repeated(len(chords)+2, 4)
-		lists := [][]int64{flows, amounts}
-		before, listsBefore := copyOf(memory), copyOfLists(lists)
-		for name, result := range resultsOfCycles(n, flows[:len(n.Pipes)], amounts[:len(chords)], chords[0]) {
-			got, code := result()
-			if code != impl.ErrNone || len(got) == 0 {
-				t.Fatalf("%s returned %v and the code %d", name, got, code)
-			}
-			for _, list := range got {
-				list = list[:cap(list)]
-				for i := range list {
-					list[i] = -7
-				}
-			}
+		results := resultsOfCycles(n, flows[:len(n.Pipes)], amounts[:len(chords)], chords[0])
+		results["IsCirculation"] = func() ([][]int64, int64) {
 			impl.IsCirculation(n, flows[:len(n.Pipes)])
-			if !sameNetwork(memory, before) || !slices.EqualFunc(lists, listsBefore, slices.Equal[[]int64]) {
-				t.Fatalf("%s has changed its arguments, or what lies behind them, to %v and %v", name, memory, lists)
-			}
+			return [][]int64{nil}, impl.ErrNone
 		}
+		wantLeftAlone(t, memory, [][]int64{flows, amounts}, results)
 	}
 }
 
-func TestListsOfCyclesAreNewMemory(t *testing.T) {
-	n, flows, amounts := mixedNetwork(), []int64{1, 2, 3, 4, 5, 6, 7}, []int64{8, 9, 10, 11}
-	for name, result := range resultsOfCycles(n, flows, amounts, 6) {
+// wantNewMemory overwrites each list of a result alone, so that a list that shares memory with
+// another one, or with what is kept, shows.
+func wantNewMemory(t *testing.T, results map[string]func() ([][]int64, int64)) {
+	t.Helper()
+	for name, result := range results {
 		want, _ := result()
 		want = copyOfLists(want)
 		second, _ := result()
-		// Each list of a result is overwritten alone, so that a list that shares memory with it shows.
 		for i := range want {
 			first, _ := result()
 			list := first[i][:cap(first[i])]
@@ -684,6 +693,11 @@ func TestListsOfCyclesAreNewMemory(t *testing.T) {
 		wantBasis(t, name+" before", second, impl.ErrNone, want, impl.ErrNone)
 		wantBasis(t, name+" behind", third, code, want, impl.ErrNone)
 	}
+}
+
+func TestListsOfCyclesAreNewMemory(t *testing.T) {
+	n, flows, amounts := mixedNetwork(), []int64{1, 2, 3, 4, 5, 6, 7}, []int64{8, 9, 10, 11}
+	wantNewMemory(t, resultsOfCycles(n, flows, amounts, 6))
 	kept, _ := impl.AddCycle(n, flows, 6, 0)
 	flows[0] = -7
 	if kept[0] != 1 {
