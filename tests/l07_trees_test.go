@@ -587,6 +587,14 @@ func networksOfFour() map[string]impl.Network {
 	}
 }
 
+// flowsOfFour are three flow lists of such a network, and behind them lists that are none.
+func flowsOfFour(size int) [][]int64 {
+	return [][]int64{
+		repeated(size, 5), repeated(size, impl.MaxFlow), repeated(size, -impl.MaxFlow), repeated(size+1, 5), repeated(size-1, 5), nil,
+		append(repeated(size-1, 5), impl.MaxFlow+1), append(repeated(size-1, 5), -impl.MaxFlow-1), repeated(size, math.MinInt64),
+	}
+}
+
 // nodesOfFour are indices of nodes of such a network, and of none.
 var nodesOfFour = []int64{0, 3, 4, -1, math.MinInt64, math.MaxInt64}
 
@@ -597,12 +605,7 @@ func hasNoNode(node int64) bool {
 // TestErrorsOfLevelsInOrder takes all combinations of arguments that are right and wrong.
 func TestErrorsOfLevelsInOrder(t *testing.T) {
 	for name, n := range networksOfFour() {
-		size := len(n.Pipes)
-		lists := [][]int64{
-			repeated(size, 5), repeated(size, impl.MaxFlow), repeated(size, -impl.MaxFlow), repeated(size+1, 5), repeated(size-1, 5), nil,
-			append(repeated(size-1, 5), impl.MaxFlow+1), append(repeated(size-1, 5), -impl.MaxFlow-1), repeated(size, math.MinInt64),
-		}
-		for i, flows := range lists {
+		for i, flows := range flowsOfFour(len(n.Pipes)) {
 			invalid, limit := failure{name == "invalid", impl.ErrInvalid}, failure{i > 2, impl.ErrLimit}
 			state := failure{name == "apart", impl.ErrState}
 			got, code := impl.DropsOf(n, flows)
